@@ -8,6 +8,9 @@ import (
 	"loop.example/roundturns/impl"
 )
 
+// fifths is the turn of the examples of the document.
+var fifths = impl.Turn{Size: 12, Step: 7}
+
 // badTurns are turns that are none: too few or too many points, a step out of its bounds, and a common divisor.
 func badTurns() []impl.Turn {
 	return []impl.Turn{
@@ -73,6 +76,79 @@ func walk(t impl.Turn) []int {
 		}
 	}
 	return points
+}
+
+// eachMany calls for each turn there is, with each number of points from a least one on.
+func eachMany(least int, call func(turn impl.Turn, many int)) {
+	for _, turn := range allTurns() {
+		for many := least; many <= turn.Size; many++ {
+			call(turn, many)
+		}
+	}
+}
+
+// badMany are numbers of points that are none of those in 1..Size.
+func badMany(turn impl.Turn) []int {
+	return []int{0, -1, -turn.Size, turn.Size + 1, 2 * turn.Size, impl.MaxSize + 1, math.MaxInt, math.MinInt}
+}
+
+// sortedWalk are the first so many points of a turn in ascending order.
+func sortedWalk(turn impl.Turn, many int) []int {
+	points := walk(turn)[:many]
+	slices.Sort(points)
+	return points
+}
+
+// total is the sum of a list.
+func total(list []int) int {
+	sum := 0
+	for _, number := range list {
+		sum += number
+	}
+	return sum
+}
+
+// eachBadPair calls with turns that are none, and with numbers of points that are less than a least one or too many.
+func eachBadPair(least int, call func(turn impl.Turn, many int)) {
+	for _, turn := range allTurns() {
+		for _, many := range badMany(turn) {
+			call(turn, many)
+		}
+		for many := 1; many < least; many++ {
+			call(turn, many)
+		}
+	}
+	for _, turn := range badTurns() {
+		for _, many := range []int{0, 1, 2, 4, 12, turn.Size, math.MaxInt, math.MinInt} {
+			call(turn, many)
+		}
+	}
+}
+
+// backwards is a list from its last number to its first one.
+func backwards(list []int) []int {
+	turned := slices.Clone(list)
+	slices.Reverse(turned)
+	return turned
+}
+
+// countIf counts the numbers of a list of which something holds.
+func countIf(list []int, holds func(int) bool) int {
+	count := 0
+	for _, number := range list {
+		if holds(number) {
+			count++
+		}
+	}
+	return count
+}
+
+// spoil writes over a list, and over the room behind it.
+func spoil(list []int) {
+	whole := list[:cap(list)]
+	for place := range whole {
+		whole[place] = -7
+	}
 }
 
 // outside are numbers that are none of those from 0 on and less than a bound.

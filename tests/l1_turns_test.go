@@ -185,7 +185,6 @@ func noneTwice(points []int) map[int]bool {
 }
 
 func TestPromise6KnownPoints(t *testing.T) {
-	fifths := impl.Turn{Size: 12, Step: 7}
 	wantList(t, "FirstPoints", fifths, impl.FirstPoints(fifths, 5), []int{0, 7, 2, 9, 4})
 	two := impl.Turn{Size: 2, Step: 1}
 	wantList(t, "FirstPoints", two, impl.FirstPoints(two, 1), []int{0})
