@@ -355,7 +355,7 @@ func TestPromise31OtherBytes(t *testing.T) {
 }
 
 func TestPromise32WordsAreBalanced(t *testing.T) {
-	for _, word := range wordsWith("01", 10) {
+	for _, word := range shortWords() {
 		wantHolds(t, "BalancedOk", word, impl.BalancedOk(word), plainBalanced(word))
 	}
 }
