@@ -22,7 +22,7 @@ func PointOf(t Turn, time int) int {
 	if !TurnOk(t) || time < 0 || time >= t.Size {
 		return -1
 	}
-	return time * t.Step % t.Size
+	return pointAt(t, time)
 }
 
 // TimeOf returns the time, from 0 on and less than Size, at which a turn (TurnOk) is at a point, from 0 on and less than Size (PointOf); -1 for others.
@@ -56,7 +56,7 @@ func FirstPoints(t Turn, many int) []int {
 	}
 	points := make([]int, many)
 	for time := range points {
-		points[time] = PointOf(t, time)
+		points[time] = pointAt(t, time)
 	}
 	return points
 }
@@ -67,6 +67,16 @@ func BothSteps(t Turn, u Turn) (Turn, bool) {
 		return Turn{}, false
 	}
 	return Turn{Size: t.Size, Step: t.Step * u.Step % t.Size}, true
+}
+
+// pointAt returns the point of a turn (TurnOk) at a time, from 0 on; it is PointOf without the check, for sums and rows that have made it once.
+func pointAt(t Turn, time int) int {
+	return time * t.Step % t.Size
+}
+
+// upToSize reports whether a turn is one (TurnOk), and a number is in 0..Size.
+func upToSize(t Turn, number int) bool {
+	return TurnOk(t) && number >= 0 && number <= t.Size
 }
 
 // commonDivisor returns the greatest common divisor of two numbers that are at least 0.
