@@ -14,6 +14,9 @@ var fifths = impl.Turn{Size: 12, Step: 7}
 // golden is a turn with as many quotients as there may be.
 var golden = impl.Turn{Size: 55, Step: 34}
 
+// two is the turn with the fewest points.
+var two = impl.Turn{Size: 2, Step: 1}
+
 // badTurns are turns that are none: too few or too many points, a step out of its bounds, and a common divisor.
 func badTurns() []impl.Turn {
 	return []impl.Turn{

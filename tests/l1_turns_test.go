@@ -147,7 +147,6 @@ func TestPromise5OtherWay(t *testing.T) {
 			wantNumber(t, "both points", turn, impl.PointOf(turn, time)+impl.PointOf(back, time), turn.Size)
 		}
 	}
-	two := impl.Turn{Size: 2, Step: 1}
 	wantTurn(t, "BackTurn", two, impl.BackTurn(two), two)
 }
 
@@ -186,7 +185,6 @@ func noneTwice(points []int) map[int]bool {
 
 func TestPromise6KnownPoints(t *testing.T) {
 	wantList(t, "FirstPoints", fifths, impl.FirstPoints(fifths, 5), []int{0, 7, 2, 9, 4})
-	two := impl.Turn{Size: 2, Step: 1}
 	wantList(t, "FirstPoints", two, impl.FirstPoints(two, 1), []int{0})
 	wantList(t, "FirstPoints", two, impl.FirstPoints(two, 2), []int{0, 1})
 	ones := impl.Turn{Size: impl.MaxSize, Step: 1}

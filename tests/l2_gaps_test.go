@@ -57,7 +57,6 @@ func TestPromise8KnownGaps(t *testing.T) {
 	wantList(t, "GapsOf", fifths, impl.GapsOf(fifths, 4), []int{2, 5, 2, 3})
 	wantList(t, "GapsOf", fifths, impl.GapsOf(fifths, 5), []int{2, 2, 3, 2, 3})
 	wantList(t, "GapsOf", fifths, impl.GapsOf(fifths, 7), []int{2, 2, 2, 1, 2, 2, 1})
-	two := impl.Turn{Size: 2, Step: 1}
 	wantList(t, "GapsOf", two, impl.GapsOf(two, 1), []int{2})
 	wantList(t, "GapsOf", two, impl.GapsOf(two, 2), []int{1, 1})
 }
@@ -294,7 +293,6 @@ func TestPromise14EqualLengthsAreToldTwice(t *testing.T) {
 	wantList(t, "GapsBy", fifths, impl.GapsBy(fifths, 4), []int{2, 2, 3, 1, 5, 1})
 	wantList(t, "GapsBy", fifths, impl.GapsBy(fifths, 5), []int{2, 3, 3, 2, 5, 0})
 	wantList(t, "GapsBy", fifths, impl.GapsBy(fifths, 12), []int{1, 5, 1, 7, 2, 0})
-	two := impl.Turn{Size: 2, Step: 1}
 	wantList(t, "GapsBy", two, impl.GapsBy(two, 2), []int{1, 1, 1, 1, 2, 0})
 	for _, turn := range allTurns() {
 		opposite := impl.TimeOf(turn, 1)

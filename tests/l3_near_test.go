@@ -233,7 +233,6 @@ func TestPromise18EachRowMakesTheNextOne(t *testing.T) {
 
 func TestPromise18KnownRows(t *testing.T) {
 	wantRows(t, "NearRule", fifths, impl.NearRule(fifths), [][]int{{1, 7, 1, 5}, {2, 2, 1, 5}, {2, 2, 3, 3}, {2, 2, 5, 1}, {7, 1, 5, 1}})
-	two := impl.Turn{Size: 2, Step: 1}
 	wantRows(t, "NearRule", two, impl.NearRule(two), [][]int{{1, 1, 1, 1}})
 	ones, others := stepsOfOne()
 	for _, turn := range ones {

@@ -199,7 +199,6 @@ func TestPromise28KnownLetters(t *testing.T) {
 	wantText(t, "CodeOf", fifths, impl.CodeOf(fifths, 10, 4), "1101")
 	wantText(t, "CodeOf", fifths, impl.CodeOf(fifths, 11, 3), "101")
 	wantText(t, "CodeOf", fifths, impl.CodeOf(fifths, 0, 60), strings.Repeat("010101101011", 5))
-	two := impl.Turn{Size: 2, Step: 1}
 	wantText(t, "CodeOf", two, impl.CodeOf(two, 0, 1), "0")
 	wantText(t, "CodeOf", two, impl.CodeOf(two, 1, 1), "1")
 	wantText(t, "CodeOf", two, impl.CodeOf(two, 1, 60), strings.Repeat("10", 30))

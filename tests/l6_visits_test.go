@@ -208,7 +208,6 @@ func TestPromise34KnownVisits(t *testing.T) {
 	for many, want := range []int{0, 1, 1, 1, 2, 2, 3, 3, 4, 4, 4, 5, 5} {
 		wantVisits(t, fifths, many, 9, 5, want)
 	}
-	two := impl.Turn{Size: 2, Step: 1}
 	wantVisits(t, two, 1, 0, 1, 1)
 	wantVisits(t, two, 1, 1, 1, 0)
 	wantVisits(t, two, 1, 1, 2, 1)
@@ -524,7 +523,6 @@ func TestPromise38KnownNumbers(t *testing.T) {
 	for many, want := range []int{0, 3, 6, 9, 0} {
 		wantExcessBy(t, fifths, many, 3, want)
 	}
-	two := impl.Turn{Size: 2, Step: 1}
 	for many, want := range []int{0, 1, 0} {
 		wantExcessBy(t, two, many, 1, want)
 	}
