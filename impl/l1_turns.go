@@ -19,7 +19,7 @@ func TurnOk(t Turn) bool {
 
 // PointOf returns the point of a turn (TurnOk) at a time, from 0 on and less than Size: what the time, times the step, leaves if it is divided by Size; -1 for others.
 func PointOf(t Turn, time int) int {
-	if !TurnOk(t) || time < 0 || time >= t.Size {
+	if !belowSize(t, time) {
 		return -1
 	}
 	return pointAt(t, time)
@@ -27,7 +27,7 @@ func PointOf(t Turn, time int) int {
 
 // TimeOf returns the time, from 0 on and less than Size, at which a turn (TurnOk) is at a point, from 0 on and less than Size (PointOf); -1 for others.
 func TimeOf(t Turn, point int) int {
-	if !TurnOk(t) || point < 0 || point >= t.Size {
+	if !belowSize(t, point) {
 		return -1
 	}
 	return point * oppositeStep(t) % t.Size
@@ -72,6 +72,11 @@ func BothSteps(t Turn, u Turn) (Turn, bool) {
 // pointAt returns the point of a turn (TurnOk) at a time, from 0 on; it is PointOf without the check, for sums and rows that have made it once.
 func pointAt(t Turn, time int) int {
 	return time * t.Step % t.Size
+}
+
+// belowSize reports whether a turn is one (TurnOk), and a number is from 0 on and less than Size.
+func belowSize(t Turn, number int) bool {
+	return TurnOk(t) && number >= 0 && number < t.Size
 }
 
 // upToSize reports whether a turn is one (TurnOk), and a number is in 0..Size.

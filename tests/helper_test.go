@@ -14,6 +14,9 @@ var fifths = impl.Turn{Size: 12, Step: 7}
 // golden is a turn with as many quotients as there may be.
 var golden = impl.Turn{Size: 55, Step: 34}
 
+// sevens is a turn of as many points as there may be, which steps over less than half the circle.
+var sevens = impl.Turn{Size: 60, Step: 7}
+
 // two is the turn with the fewest points.
 var two = impl.Turn{Size: 2, Step: 1}
 

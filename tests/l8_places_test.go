@@ -213,7 +213,6 @@ func TestPromise47KnownPlaces(t *testing.T) {
 	wantOne(t, golden, 35, -1)
 	wantOne(t, two, 1, 1)
 	wantOne(t, two, 2, -1)
-	sevens := impl.Turn{Size: 60, Step: 7}
 	for number, want := range []int{-1, 8, 17, 25, 34, 42, 51, 59, -1} {
 		wantOne(t, sevens, number, want)
 	}
@@ -400,7 +399,7 @@ func TestPromise49KnownDistances(t *testing.T) {
 	wantSpaces(t, fifths, 2, 2, 2, 1, 2, 2, 1)
 	wantSpaces(t, two, 2)
 	wantSpaces(t, impl.Turn{Size: 3, Step: 2}, 2, 1)
-	wantSpaces(t, impl.Turn{Size: 60, Step: 7}, 9, 9, 8, 9, 8, 9, 8)
+	wantSpaces(t, sevens, 9, 9, 8, 9, 8, 9, 8)
 	wantSpaces(t, impl.Turn{Size: 60, Step: 1}, 60)
 	wantSpaces(t, impl.Turn{Size: 13, Step: 8}, 2, 2, 1, 2, 2, 1, 2, 1)
 }
@@ -452,7 +451,7 @@ func TestPromise50KnownTurns(t *testing.T) {
 	wantInner(t, golden, impl.Turn{Size: 34, Step: 21}, true)
 	wantInner(t, impl.Turn{Size: 60, Step: 59}, impl.Turn{Size: 59, Step: 1}, true)
 	wantInner(t, impl.Turn{Size: 60, Step: 31}, impl.Turn{Size: 31, Step: 29}, true)
-	wantInner(t, impl.Turn{Size: 60, Step: 7}, impl.Turn{Size: 7, Step: 4}, true)
+	wantInner(t, sevens, impl.Turn{Size: 7, Step: 4}, true)
 	wantInner(t, impl.Turn{Size: 59, Step: 2}, two, true)
 	wantInner(t, impl.Turn{Size: 3, Step: 2}, two, true)
 	wantNoInner(t, impl.Turn{Size: 3, Step: 1})
@@ -510,7 +509,6 @@ func TestPromise51KnownTurns(t *testing.T) {
 	wantInners(t, golden, golden,
 		impl.Turn{Size: 34, Step: 21}, impl.Turn{Size: 21, Step: 13}, impl.Turn{Size: 13, Step: 8}, impl.Turn{Size: 8, Step: 5},
 		impl.Turn{Size: 5, Step: 3}, impl.Turn{Size: 3, Step: 2}, two)
-	sevens := impl.Turn{Size: 60, Step: 7}
 	wantInners(t, sevens, sevens, impl.Turn{Size: 7, Step: 4}, impl.Turn{Size: 4, Step: 3}, impl.Turn{Size: 3, Step: 1})
 	wantInners(t, two, two)
 }
